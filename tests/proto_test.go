@@ -101,6 +101,7 @@ func checkTree(t *testing.T, kids []int) {
 	if got := impl.WellFormed(c); got != ok {
 		t.Fatalf("WellFormed with Kids %v = %v", kids, got)
 	}
+	checkDumped(t, c, ok)
 	stripped := len(impl.Strip(c).Protos)
 	if ok && stripped != len(kids) || !ok && stripped != 0 {
 		t.Fatalf("Strip with Kids %v has %d prototypes", kids, stripped)
@@ -261,14 +262,18 @@ func TestManyPrototypes(t *testing.T) {
 	}
 }
 
+// numbers gives numbers below n by a fixed rule, the same at every run.
+func numbers(seed uint32) func(n int) int {
+	return func(n int) int {
+		seed = seed*1664525 + 1013904223
+		return int(seed>>8) % n
+	}
+}
+
 // TestTreesOfManyShapes makes trees by a fixed rule of steps down and up, and
 // spoils each in one place.
 func TestTreesOfManyShapes(t *testing.T) {
-	step := uint32(1)
-	next := func(n int) int {
-		step = step*1664525 + 1013904223
-		return int(step>>8) % n
-	}
+	next := numbers(1)
 	for range 60 {
 		n := 1 + next(impl.MaxProtos)
 		kids := []int{0}
@@ -304,6 +309,7 @@ func checkLimits(t *testing.T, limits []limit) {
 				if got := impl.WellFormed(c); got != l.ok {
 					t.Errorf("%s, prototype %d of %d: %v", l.name, i, len(kids), got)
 				}
+				checkDumped(t, c, l.ok)
 				if end := impl.End(c, 0); l.ok != (end == len(kids)) || !l.ok && end != -1 {
 					t.Errorf("%s, prototype %d of %d: the root ends at %d", l.name, i, len(kids), end)
 				}
