@@ -148,7 +148,7 @@ func Unpack(w uint32) Instr {
 }
 
 func Wide(op int, a int, s int) Instr {
-	if !partOp.holds(op) || !partA.holds(a) || s < wideLeast || s > wideMost {
+	if !partOp.holds(op) || !partA.holds(a) || !wideFits(s) {
 		return Instr{}
 	}
 	n := s - wideLeast
@@ -158,6 +158,11 @@ func Wide(op int, a int, s int) Instr {
 // holds says whether the number fits into the part's bits.
 func (p part) holds(n int) bool {
 	return n >= 0 && n < 1<<spans[p].size
+}
+
+// wideFits says whether B and C can say the number as S.
+func wideFits(s int) bool {
+	return s >= wideLeast && s <= wideMost
 }
 
 // wideOf is the S that B and C say together.

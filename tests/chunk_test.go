@@ -746,16 +746,18 @@ func TestChunksAreNotChanged(t *testing.T) {
 	}
 }
 
-func TestLoadedListsStandAlone(t *testing.T) {
-	s := wantDump(fullTree())
-	first, _ := impl.Load(s)
+// checkStandsAlone writes into answers, all of one and each prototype of others,
+// and asks that nothing else changes by it.
+func checkStandsAlone(t *testing.T, read func() (impl.Chunk, int), want impl.Chunk) {
+	t.Helper()
+	first, _ := read()
 	scribble(first)
-	second, code := impl.Load(s)
-	if code != impl.LoadOk || !sameChunk(second, fullTree()) {
-		t.Fatalf("after writing into an answer, Load gives %v, %d", second, code)
+	second, code := read()
+	if code != 0 || !sameChunk(second, want) {
+		t.Fatalf("after writing into an answer, the next is %v, %d", second, code)
 	}
 	for i := range second.Protos {
-		c, _ := impl.Load(s)
+		c, _ := read()
 		scribble(impl.Chunk{Protos: c.Protos[i : i+1]})
 		for k := range c.Protos {
 			if k != i && !reflect.DeepEqual(c.Protos[k], second.Protos[k]) {
@@ -763,6 +765,11 @@ func TestLoadedListsStandAlone(t *testing.T) {
 			}
 		}
 	}
+}
+
+func TestLoadedListsStandAlone(t *testing.T) {
+	s := wantDump(fullTree())
+	checkStandsAlone(t, func() (impl.Chunk, int) { return impl.Load(s) }, fullTree())
 }
 
 // TestLoadedTextsAreNew looks whether a text of the answer is a piece of the argument.

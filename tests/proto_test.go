@@ -102,6 +102,7 @@ func checkTree(t *testing.T, kids []int) {
 		t.Fatalf("WellFormed with Kids %v = %v", kids, got)
 	}
 	checkDumped(t, c, ok)
+	checkListed(t, c, ok)
 	stripped := len(impl.Strip(c).Protos)
 	if ok && stripped != len(kids) || !ok && stripped != 0 {
 		t.Fatalf("Strip with Kids %v has %d prototypes", kids, stripped)
@@ -310,6 +311,7 @@ func checkLimits(t *testing.T, limits []limit) {
 					t.Errorf("%s, prototype %d of %d: %v", l.name, i, len(kids), got)
 				}
 				checkDumped(t, c, l.ok)
+				checkListed(t, c, l.ok)
 				if end := impl.End(c, 0); l.ok != (end == len(kids)) || !l.ok && end != -1 {
 					t.Errorf("%s, prototype %d of %d: the root ends at %d", l.name, i, len(kids), end)
 				}
